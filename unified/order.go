@@ -2,6 +2,7 @@ package unified
 
 import (
 	"selvage/api"
+	"selvage/difftext"
 	"selvage/hunks"
 )
 
@@ -13,27 +14,9 @@ func check(l []api.Hunk) error {
 		}
 	}
 	for i, h := range l {
-		if !inOrder(l[:i], h) {
+		if !difftext.InOrder(l[:i], h) {
 			return api.ErrOrder
 		}
 	}
 	return nil
-}
-
-// inOrder tells whether a hunk may stand behind others.
-func inOrder(ahead []api.Hunk, h api.Hunk) bool {
-	if len(ahead) == 0 {
-		return true
-	}
-	last := ahead[len(ahead)-1]
-	return firstLine(h.A, h.N) >= firstLine(last.A, last.N)+last.N &&
-		firstLine(h.B, h.M) >= firstLine(last.B, last.M)+last.M
-}
-
-// firstLine is the first line of a side that is told as n lines from the line at on; of one without lines that behind its place.
-func firstLine(at, n int) int {
-	if n == 0 {
-		return at + 1
-	}
-	return at
 }

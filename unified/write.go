@@ -2,8 +2,7 @@ package unified
 
 import (
 	"selvage/api"
-	"selvage/lines"
-	"selvage/quote"
+	"selvage/difftext"
 	"strconv"
 	"strings"
 )
@@ -13,17 +12,6 @@ func isPrinted(name api.Name) bool {
 	return name.Path != "" && !strings.Contains(name.Path, "\x00") && !strings.ContainsAny(name.Stamp, "\t\n\x00")
 }
 
-// writeHeader writes a line of the header.
-func writeHeader(b *strings.Builder, mark string, name api.Name) {
-	b.WriteString(mark)
-	b.WriteString(quote.Quote(name.Path))
-	if name.Stamp != "" {
-		b.WriteString(stampMark)
-		b.WriteString(name.Stamp)
-	}
-	b.WriteByte('\n')
-}
-
 // writeHunk writes a hunk that may be.
 func writeHunk(b *strings.Builder, h api.Hunk) {
 	b.WriteString(hunkBegin)
@@ -31,13 +19,10 @@ func writeHunk(b *strings.Builder, h api.Hunk) {
 	b.WriteString(hunkMiddle)
 	b.WriteString(rangeText(h.B, h.M))
 	b.WriteString(hunkClose)
-	if h.Head != "" {
-		b.WriteByte(' ')
-		b.WriteString(h.Head)
-	}
-	b.WriteByte('\n')
+	difftext.WriteHead(b, h.Head)
 	for _, r := range h.Rows {
-		writeRow(b, r)
+		at := r.Kind - api.RowBoth
+		difftext.WriteRow(b, marks[at:at+1], r.Text)
 	}
 }
 
@@ -47,13 +32,4 @@ func rangeText(at, n int) string {
 		return strconv.Itoa(at)
 	}
 	return strconv.Itoa(at) + "," + strconv.Itoa(n)
-}
-
-// writeRow writes a row of one of the three kinds.
-func writeRow(b *strings.Builder, r api.Row) {
-	b.WriteByte(marks[r.Kind-api.RowBoth])
-	b.WriteString(r.Text)
-	if !lines.Whole(r.Text) {
-		b.WriteString("\n" + cutLine + "\n")
-	}
 }
