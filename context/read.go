@@ -76,11 +76,6 @@ func readRange(r *difftext.Reader, mark, end string) (span, bool) {
 
 // readSpan reads one number, or two; false, if a text is no range.
 func readSpan(text string) (span, bool) {
-	begin, end, two := strings.Cut(text, ",")
-	if !two {
-		end = begin
-	}
-	first, isFirst := difftext.Number(begin)
-	last, isLast := difftext.Number(end)
-	return span{first, last - first + 1, !two}, isFirst && isLast && first <= last
+	first, last, ok := difftext.Range(text)
+	return span{first, last - first + 1, !strings.Contains(text, ",")}, ok
 }

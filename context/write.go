@@ -4,7 +4,6 @@ import (
 	"selvage/api"
 	"selvage/difftext"
 	"slices"
-	"strconv"
 	"strings"
 )
 
@@ -13,18 +12,10 @@ func writeHunk(b *strings.Builder, h api.Hunk) {
 	b.WriteString(stars)
 	difftext.WriteHead(b, h.Head)
 	marked := markRows(h.Rows)
-	b.WriteString(oldMark + rangeText(h.A, h.N) + oldClose + "\n")
+	b.WriteString(oldMark + difftext.RangeText(h.A, h.N) + oldClose + "\n")
 	writePart(b, h.Rows, marked, api.RowOld)
-	b.WriteString(freshMark + rangeText(h.B, h.M) + freshClose + "\n")
+	b.WriteString(freshMark + difftext.RangeText(h.B, h.M) + freshClose + "\n")
 	writePart(b, h.Rows, marked, api.RowNew)
-}
-
-// rangeText is the mark's range of a line and a count.
-func rangeText(at, n int) string {
-	if n < 2 {
-		return strconv.Itoa(at)
-	}
-	return strconv.Itoa(at) + "," + strconv.Itoa(at+n-1)
 }
 
 // markRows are the marks of rows, one for each.

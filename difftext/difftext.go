@@ -1,4 +1,4 @@
-// Package difftext is what the formats of diffs have in common: a text read line by line, a header's names, numbers, lines without an end, and the order of hunks.
+// Package difftext is what the formats of diffs have in common: a text read line by line, a header's names, numbers and ranges, lines without an end, and the order of hunks.
 package difftext
 
 import (
@@ -31,7 +31,7 @@ func (f Format) Parse(text string) (api.Name, api.Name, []api.Hunk, string, int,
 	if len(text) > api.MaxBytes {
 		return fault(0, api.ErrLong)
 	}
-	r := &Reader{Line: 1, rest: text}
+	r := NewReader(text)
 	old, isOld := r.header(f.Old)
 	if !isOld {
 		return fault(r.Line, api.ErrHead)
@@ -44,7 +44,7 @@ func (f Format) Parse(text string) (api.Name, api.Name, []api.Hunk, string, int,
 	if err != nil {
 		return fault(line, err)
 	}
-	return old, fresh, l, r.rest, 0, nil
+	return old, fresh, l, r.Left(), 0, nil
 }
 
 // fault is what Parse answers of a text with a fault at a line.
@@ -73,6 +73,21 @@ func (r *Reader) hunks(f Format) ([]api.Hunk, int, error) {
 		return nil, r.Line, api.ErrHunk
 	}
 	return l, 0, nil
+}
+
+// Check tells what is wrong with hunks. What each of them is comes ahead of how they stand, so they are gone through twice.
+func Check(l []api.Hunk) error {
+	for _, h := range l {
+		if err := hunks.Valid(h); err != nil {
+			return err
+		}
+	}
+	for i, h := range l {
+		if !InOrder(l[:i], h) {
+			return api.ErrOrder
+		}
+	}
+	return nil
 }
 
 // InOrder tells whether a hunk may stand behind others.

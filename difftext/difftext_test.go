@@ -8,11 +8,12 @@ import (
 
 // A text is read line by line, each with an end, and the last one may have none.
 func TestReader(t *testing.T) {
-	r := &Reader{Line: 1, rest: "a\n\nb"}
+	r := NewReader("a\n\nb")
+	left := []string{"a\n\nb", "\nb", "b", "", ""}
 	for i, want := range []string{"a\n", "\n", "b\n", "", ""} {
 		line := r.Next()
-		if line != want || r.Line != i+1 {
-			t.Errorf("%q at %d, not %q at %d", line, r.Line, want, i+1)
+		if line != want || r.Line != i+1 || r.Left() != left[i] {
+			t.Errorf("%q at %d, not %q at %d, left %q", line, r.Line, want, i+1, r.Left())
 		}
 		r.Pass(line)
 	}
@@ -31,7 +32,7 @@ func TestRow(t *testing.T) {
 		{"! a", "a\n", "", 2},
 		{"! \n\\\n", "", "", 3},
 	} {
-		r := &Reader{Line: 1, rest: c.text}
+		r := NewReader(c.text)
 		row := r.Row(r.Next(), 2)
 		if row != c.row || r.Next() != c.next || r.Line != c.line {
 			t.Errorf("%q: %q, then %q at %d", c.text, row, r.Next(), r.Line)
@@ -49,6 +50,32 @@ func TestNumber(t *testing.T) {
 	for _, text := range []string{"", " 1", "1 ", "+1", "-1", "x", "1x", "0x1", "1_0", "2147483648", "18446744073709551616", strings.Repeat("9", 99)} {
 		if n, ok := Number(text); n != 0 || ok {
 			t.Error(text, n, ok)
+		}
+	}
+}
+
+// A range is one number, or two, the second one not below the first.
+func TestRange(t *testing.T) {
+	for text, want := range map[string][2]int{"0": {0, 0}, "7": {7, 7}, "1,2": {1, 2}, "3,3": {3, 3}, "0,0": {0, 0}, "007,08": {7, 8}, "0,2147483647": {0, api.MaxNumber}} {
+		if first, last, ok := Range(text); first != want[0] || last != want[1] || !ok {
+			t.Error(text, first, last, ok)
+		}
+	}
+	for _, text := range []string{"", ",", "1,", ",1", "0,", ",0", "2,1", "1,0", "1,2,3", "x", "0,x", "x,0", "x,1", "1 ,2", "1, 2", "2147483648", "0,2147483648", "2147483648,2147483648"} {
+		if first, last, ok := Range(text); ok {
+			t.Error(text, first, last)
+		}
+	}
+}
+
+// A range of lines is told by its first one and its last one, and one number where there is one, or none.
+func TestRangeText(t *testing.T) {
+	for _, c := range []struct {
+		first, n int
+		want     string
+	}{{0, 0, "0"}, {7, 0, "7"}, {1, 1, "1"}, {1, 2, "1,2"}, {9, 3, "9,11"}, {api.MaxNumber - 2, 2, "2147483645,2147483646"}, {api.MaxNumber, 0, "2147483647"}} {
+		if got := RangeText(c.first, c.n); got != c.want {
+			t.Error(c, got)
 		}
 	}
 }
@@ -81,6 +108,31 @@ func TestInOrder(t *testing.T) {
 	} {
 		if InOrder(ahead, c.h) != c.ok || !InOrder(nil, c.h) {
 			t.Error(c.h)
+		}
+	}
+}
+
+// What each hunk is comes ahead of how they stand.
+func TestCheck(t *testing.T) {
+	fine := api.Hunk{A: 1, N: 1, B: 0, Rows: []api.Row{{Kind: api.RowOld, Text: "a\n"}}}
+	next := fine
+	next.A = 2
+	var bad api.Hunk
+	for _, c := range []struct {
+		l    []api.Hunk
+		want error
+	}{
+		{nil, nil},
+		{[]api.Hunk{fine}, nil},
+		{[]api.Hunk{fine, next}, nil},
+		{[]api.Hunk{next, fine}, api.ErrOrder},
+		{[]api.Hunk{fine, fine}, api.ErrOrder},
+		{[]api.Hunk{bad}, api.ErrHunk},
+		{[]api.Hunk{fine, bad}, api.ErrHunk},
+		{[]api.Hunk{fine, fine, bad}, api.ErrHunk},
+	} {
+		if err := Check(c.l); err != c.want {
+			t.Error(c.l, err)
 		}
 	}
 }

@@ -22,6 +22,16 @@ type Reader struct {
 	rest string // what is not read yet
 }
 
+// NewReader goes through a text from its first line on.
+func NewReader(text string) *Reader {
+	return &Reader{Line: 1, rest: text}
+}
+
+// Left is all that is not read yet.
+func (r *Reader) Left() string {
+	return r.rest
+}
+
 // Next is the next line, always with its end; the empty text, if there is none.
 func (r *Reader) Next() string {
 	at := strings.IndexByte(r.rest, '\n')
@@ -73,6 +83,17 @@ func Number(digits string) (int, bool) {
 		return 0, false
 	}
 	return int(n), true
+}
+
+// Range reads one number, or two with a comma between, the second one not below the first, as the first line and the last one; false, if a text is no range.
+func Range(text string) (int, int, bool) {
+	begin, end, two := strings.Cut(text, ",")
+	if !two {
+		end = begin
+	}
+	first, isFirst := Number(begin)
+	last, isLast := Number(end)
+	return first, last, isFirst && isLast && first <= last
 }
 
 // Head reads what stands behind a hunk's first line, without its end: nothing, or a blank and the heading; false, if it is neither.

@@ -4,6 +4,7 @@ import (
 	"selvage/api"
 	"selvage/lines"
 	"selvage/quote"
+	"strconv"
 	"strings"
 )
 
@@ -16,6 +17,14 @@ func writeHeader(b *strings.Builder, mark string, name api.Name) {
 		b.WriteString(name.Stamp)
 	}
 	b.WriteByte('\n')
+}
+
+// RangeText is the range of so many lines from the first one on; of none, and of one, it is one number.
+func RangeText(first, n int) string {
+	if n < 2 {
+		return strconv.Itoa(first)
+	}
+	return strconv.Itoa(first) + "," + strconv.Itoa(first+n-1)
 }
 
 // WriteHead writes what ends a hunk's first line: its heading, if it has one.
