@@ -50,7 +50,7 @@ func fromLast(changes []api.Change) iter.Seq[api.Change] {
 	}
 }
 
-// writeEd nameWrite the commands of a change: one, or more where a line that comes would end the lines of text.
+// writeEd writes the commands of a change: one, or more where a line that comes would end the lines of text.
 func writeEd(text *strings.Builder, c api.Change, come []string) {
 	text.WriteString(place(c, ",") + letter(c) + "\n")
 	for len(come) > 0 {
@@ -69,7 +69,7 @@ func writeEd(text *strings.Builder, c api.Change, come []string) {
 	}
 }
 
-// writeForward nameWrite a change as a person reads it.
+// writeForward writes a change as a person reads it.
 func writeForward(text *strings.Builder, c api.Change, come []string) {
 	text.WriteString(letter(c) + place(c, " ") + "\n")
 	if c.M > 0 {
@@ -78,7 +78,7 @@ func writeForward(text *strings.Builder, c api.Change, come []string) {
 	}
 }
 
-// writeRcs nameWrite a change as RCS does: what goes, and behind it what comes.
+// writeRcs writes a change as RCS does: what goes, and behind it what comes.
 func writeRcs(text *strings.Builder, c api.Change, come []string) {
 	if c.N > 0 {
 		text.WriteString(nameDelete + strconv.Itoa(c.A+1) + " " + strconv.Itoa(c.N) + "\n")
@@ -89,7 +89,7 @@ func writeRcs(text *strings.Builder, c api.Change, come []string) {
 	}
 }
 
-// writeLines nameWrite lines as they are.
+// writeLines writes lines as they are.
 func writeLines(text *strings.Builder, l []string) {
 	for _, line := range l {
 		text.WriteString(line)
